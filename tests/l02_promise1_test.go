@@ -205,24 +205,30 @@ func TestDeckResultsAreNewMemory(t *testing.T) {
 	wantList(t, deck, true, []int64{3, 1, 0, 2}, "DealPiles shares nothing with its argument")
 }
 
-func TestDecksAreSharedAtOnce(t *testing.T) {
-	seeds := []int64{5, 6, 7, 8, 9}
-	want, _ := impl.DecksShared(20, seeds, 1)
+// wantSameAtOnce tells whether 64 calls, made at once by 1 to 8 workers each, all return the same list.
+func wantSameAtOnce(t *testing.T, want []int64, call func(workers int64) ([]int64, bool), what string) {
+	t.Helper()
 	type result struct {
-		ranks []int64
-		ok    bool
+		list []int64
+		ok   bool
 	}
 	results := make(chan result)
 	for i := range int64(64) {
 		go func() {
-			ranks, ok := impl.DecksShared(20, seeds, i%8+1)
-			results <- result{ranks, ok}
+			list, ok := call(i%8 + 1)
+			results <- result{list, ok}
 		}()
 	}
 	for range 64 {
 		r := <-results
-		wantList(t, r.ranks, r.ok, want, "DecksShared at once")
+		wantList(t, r.list, r.ok, want, what)
 	}
+}
+
+func TestDecksAreSharedAtOnce(t *testing.T) {
+	seeds := []int64{5, 6, 7, 8, 9}
+	want, _ := impl.DecksShared(20, seeds, 1)
+	wantSameAtOnce(t, want, func(workers int64) ([]int64, bool) { return impl.DecksShared(20, seeds, workers) }, "DecksShared at once")
 }
 
 func TestHugeListsFail(t *testing.T) {
